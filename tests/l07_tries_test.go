@@ -74,10 +74,16 @@ func checkNoTrie(t *testing.T, l []string) {
 			t.Errorf("TrieOk(%q) of %d nodes is true", l, len(nodes))
 		}
 	}
-	for _, text := range []string{"", "a", "abc"} {
-		if got := impl.Occurs(l, text); len(got) != 0 {
-			t.Errorf("Occurs(%q, %q) = %+v", l, text, got)
-		}
+}
+
+// checkNoList also looks that nothing is found of a list that is not right,
+// although its texts are there.
+func checkNoList(t *testing.T, l []string) {
+	t.Helper()
+	checkNoTrie(t, l)
+	whole := strings.Join(l, "")
+	for _, text := range []string{"", "a", "abc", whole[:min(len(whole), impl.MaxText)]} {
+		checkOccurs(t, l, text, nil)
 	}
 }
 
@@ -164,12 +170,12 @@ func TestTrieOfAtItsLimits(t *testing.T) {
 	checkTrie(t, []string{full})
 	checkTrie(t, []string{full, full[1:], "b" + full[1:]})
 	for _, l := range [][]string{{full + "a"}, {"a", full + "a"}, {full + "a", "a"}, {strings.Repeat("b", 300)}, {""}, {"a", ""}, {"", "a"}, {"a", "", "b"}} {
-		checkNoTrie(t, l)
+		checkNoList(t, l)
 	}
 	many := slices.Repeat([]string{"ab"}, impl.MaxPieces)
 	checkTrie(t, many)
-	checkNoTrie(t, append(many, "ab"))
-	checkNoTrie(t, slices.Repeat([]string{"a"}, 500))
+	checkNoList(t, append(many, "ab"))
+	checkNoList(t, slices.Repeat([]string{"a"}, 500))
 	for nodes := impl.MaxNodes - 25; nodes <= impl.MaxNodes; nodes++ {
 		l := textsWithNodes(nodes)
 		if len(wantTrie(l)) != nodes {
@@ -564,6 +570,88 @@ func TestOccursOfSomeTexts(t *testing.T) {
 	}
 }
 
+// textsApart gives texts of MaxPat bytes that have no byte in common.
+func textsApart(count int) []string {
+	var l []string
+	for i := range count {
+		l = append(l, strings.Repeat(string([]byte{byte('0' + i)}), impl.MaxPat))
+	}
+	return l
+}
+
+// checkOccursAlone looks for the texts in each of them alone, and in texts of
+// MaxText bytes that are made up of them.
+func checkOccursAlone(t *testing.T, l []string) {
+	t.Helper()
+	for i, x := range l {
+		around := strings.Repeat(strings.Join(slices.Concat(l[i:], l[:i]), ""), 1+impl.MaxText/len(x))
+		for _, text := range []string{x, x[1:], x + x, around[:impl.MaxText], around[3 : impl.MaxText+3]} {
+			checkOccurs(t, l, text, wantOccurs(l, text))
+		}
+		checkOccurs(t, l, around[:impl.MaxText+1], nil)
+	}
+}
+
+// TestOccursOfManyNodes: how many nodes there would be is told by TrieOf alone.
+func TestOccursOfManyNodes(t *testing.T) {
+	for _, nodes := range []int{impl.MaxNodes - 1, impl.MaxNodes, impl.MaxNodes + 1, impl.MaxNodes + 2, 500, 801} {
+		l := textsWithNodes(nodes)
+		if _, ok := impl.TrieOf(l); ok != (nodes <= impl.MaxNodes) || len(beginningsOf(l)) != nodes {
+			t.Errorf("TrieOf of texts with %d nodes: %v", nodes, ok)
+		}
+		checkOccursAlone(t, l)
+	}
+	apart := textsApart(impl.MaxPieces)
+	checkNoTrie(t, apart)
+	checkOccursAlone(t, apart)
+	checkOccurs(t, apart, apart[3], []impl.End{{At: 20, Dist: 3}})
+	checkOccurs(t, apart, apart[39]+apart[0], []impl.End{{At: 20, Dist: 39}, {At: 40, Dist: 0}})
+}
+
+// TestOccursOfManyNodesWithEndsOfOthers: texts that are ends of others, also of
+// such as stand behind them, and that are there twice.
+func TestOccursOfManyNodesWithEndsOfOthers(t *testing.T) {
+	apart := textsApart(30)
+	crossed := apart[28][:10] + apart[29][:10]
+	for _, l := range [][]string{
+		slices.Concat(apart, []string{apart[0][:1], apart[0], apart[7][:19], apart[7][:2], apart[29]}),
+		slices.Concat([]string{apart[0][:1], apart[7][:2], apart[7]}, apart),
+		slices.Concat([]string{crossed[5:]}, apart, []string{crossed, crossed[9:], crossed, crossed[10:]}),
+		slices.Concat(apart[:20], apart[:20]), // 401 nodes, each text twice
+	} {
+		checkNoTrie(t, l)
+		checkOccursAlone(t, l)
+	}
+	r := rand.New(rand.NewPCG(7, 4))
+	for range 20 {
+		l := someTexts(r, allBytes(), 25, 1)
+		for i := range l {
+			l[i] += someText(r, "ab", 19)
+		}
+		for range 15 {
+			of := l[r.IntN(25)]
+			l = append(l, of[r.IntN(20):])
+		}
+		checkOccursAlone(t, l)
+	}
+}
+
+// TestOccursOfManyNodesThatAreNotRight: too many texts, and ones that are too
+// long or empty, have no ends whatever else is there.
+func TestOccursOfManyNodesThatAreNotRight(t *testing.T) {
+	apart := textsApart(impl.MaxPieces)
+	checkNoList(t, textsApart(impl.MaxPieces+1))
+	checkNoList(t, append(slices.Clone(apart), apart[0]))
+	for _, at := range []int{0, 20, 39} {
+		for _, wrong := range []string{"", apart[at] + "z"} {
+			l := slices.Clone(apart)
+			l[at] = wrong
+			checkNoList(t, l)
+			checkOccurs(t, l, apart[3], nil)
+		}
+	}
+}
+
 // spoil writes a list full, with the room behind it.
 func spoil(l []int64) {
 	l = l[:cap(l)]
@@ -620,6 +708,11 @@ func TestTriesAreOnlyRead(t *testing.T) {
 	for i, n := range nodes {
 		checkKept(t, n.Kids, want[i].Kids)
 		checkKept(t, n.Outs, want[i].Outs)
+	}
+	apart := append(textsApart(impl.MaxPieces), "behind")[:impl.MaxPieces]
+	impl.Occurs(apart, apart[3])
+	if !slices.Equal(apart[:impl.MaxPieces+1], append(textsApart(impl.MaxPieces), "behind")) {
+		t.Errorf("the texts have become %q", apart)
 	}
 	first, again := impl.Occurs(held, "ushers"), impl.Occurs(held, "ushers")
 	clear(first)

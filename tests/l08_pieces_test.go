@@ -6,6 +6,7 @@ import (
 	"slices"
 	"strings"
 	"testing"
+	"unsafe"
 
 	"loop.example/g00568/impl"
 )
@@ -417,5 +418,14 @@ func TestPieceListsAreNewMemory(t *testing.T) {
 	}
 	if len(pieces) != 2 || len(spans) != 2 || len(ends) == 0 || pieces[1].Text != "cd" || spans[1].To != 16 || ends[0].At != 3 {
 		t.Errorf("%+v, %+v and %+v share their memory with others", pieces, spans, ends)
+	}
+}
+
+func TestPiecesShareNoText(t *testing.T) {
+	from := []byte("abcdefg")
+	pieces := impl.PiecesOf(impl.Pattern{Text: unsafe.String(&from[0], len(from)), K: 2})
+	clear(from)
+	if !slices.Equal(pieces, []impl.Piece{{At: 0, Text: "ab"}, {At: 2, Text: "cd"}, {At: 4, Text: "efg"}}) {
+		t.Errorf("the pieces have become %+v", pieces)
 	}
 }

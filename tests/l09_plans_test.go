@@ -454,31 +454,58 @@ func checkRoom[T comparable](t *testing.T, l []T, want []T, behind T) {
 	}
 }
 
+// heldPlan gives the plan with spare room behind each list that is written full.
+func heldPlan(p impl.Plan) impl.Plan {
+	held := impl.Plan{Dict: withRoom(p.Dict, behindDict), Parts: withRoom(p.Parts, behindParts), Direct: roomBehind(p.Direct)}
+	held.Nodes = append(cloneTrie(p.Nodes), impl.Node{Byte: 77})[:len(p.Nodes)]
+	for i, n := range p.Nodes {
+		held.Nodes[i].Kids, held.Nodes[i].Outs = roomBehind(n.Kids), roomBehind(n.Outs)
+	}
+	return held
+}
+
+var (
+	behindDict  = impl.Pattern{Text: "behind", K: 1}
+	behindParts = impl.Part{Owner: 7, Text: "behind"}
+)
+
+func checkHeldPlan(t *testing.T, held impl.Plan, want impl.Plan) {
+	t.Helper()
+	checkRoom(t, held.Dict, want.Dict, behindDict)
+	checkRoom(t, held.Parts, want.Parts, behindParts)
+	checkKept(t, held.Direct, want.Direct)
+	for i, n := range held.Nodes {
+		checkKept(t, n.Kids, want.Nodes[i].Kids)
+		checkKept(t, n.Outs, want.Nodes[i].Outs)
+	}
+	if !samePlan(held, want) || held.Nodes[:len(want.Nodes)+1][len(want.Nodes)].Byte != 77 {
+		t.Errorf("the plan has become %+v", held)
+	}
+}
+
+// spoilPlan writes all lists of the plan full, with the room behind them.
+func spoilPlan(p impl.Plan) {
+	clear(p.Dict[:cap(p.Dict)])
+	clear(p.Parts[:cap(p.Parts)])
+	spoil(p.Direct)
+	for i := range p.Nodes {
+		spoil(p.Nodes[i].Kids)
+		spoil(p.Nodes[i].Outs)
+	}
+	clear(p.Nodes[:cap(p.Nodes)])
+}
+
 func TestPlansAreOnlyRead(t *testing.T) {
-	pattern, part := impl.Pattern{Text: "behind", K: 1}, impl.Part{Owner: 7, Text: "behind"}
 	for _, d := range edgeDicts() {
 		want := wantPlan(d)
-		held := impl.Plan{Dict: withRoom(want.Dict, pattern), Parts: withRoom(want.Parts, part), Direct: roomBehind(want.Direct)}
-		held.Nodes = append(cloneTrie(want.Nodes), impl.Node{Byte: 77})[:len(want.Nodes)]
-		for i, n := range want.Nodes {
-			held.Nodes[i].Kids, held.Nodes[i].Outs = roomBehind(n.Kids), roomBehind(n.Outs)
-		}
+		held := heldPlan(want)
 		for range 2 {
 			impl.PlanOf(held.Dict)
 			impl.PlanOk(held)
 			clear(impl.ScanAll(held.Dict, "xabAbcdx"))
 			clear(impl.ScanPlan(held, "xabAbcdx"))
 		}
-		checkRoom(t, held.Dict, want.Dict, pattern)
-		checkRoom(t, held.Parts, want.Parts, part)
-		checkKept(t, held.Direct, want.Direct)
-		for i, n := range held.Nodes {
-			checkKept(t, n.Kids, want.Nodes[i].Kids)
-			checkKept(t, n.Outs, want.Nodes[i].Outs)
-		}
-		if !samePlan(held, want) || held.Nodes[:len(want.Nodes)+1][len(want.Nodes)].Byte != 77 {
-			t.Errorf("the plan has become %+v", held)
-		}
+		checkHeldPlan(t, held, want)
 	}
 }
 
@@ -493,13 +520,7 @@ func TestPlansAreNewMemory(t *testing.T) {
 	if !samePlan(first, want) || !samePlan(again, want) {
 		t.Errorf("the plans have become %+v and %+v", first, again)
 	}
-	clear(first.Dict[:cap(first.Dict)])
-	clear(first.Parts[:cap(first.Parts)])
-	spoil(first.Direct)
-	for i := range first.Nodes {
-		spoil(first.Nodes[i].Kids)
-		spoil(first.Nodes[i].Outs)
-	}
+	spoilPlan(first)
 	if !samePlan(again, want) {
 		t.Errorf("two plans share their memory: %+v", again)
 	}

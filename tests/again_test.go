@@ -27,6 +27,7 @@ type arguments struct {
 	ring    impl.Ring
 	session impl.Session
 	dfa     impl.Dfa
+	tree    []impl.Bk
 }
 
 // eachArguments gives right arguments, and others, of which many are not right.
@@ -43,10 +44,12 @@ func eachArguments() []arguments {
 		a.session, _ = impl.Open(d, 5, 3)
 		a.session, _, _ = impl.Feed(a.session, "ab")
 		a.dfa, _ = impl.DfaOf(p)
+		a.tree = wantTree(a.texts)
 		wrong := a
 		wrong.text, wrong.b, wrong.at = strings.Repeat("ab", 101), 256, -1
 		wrong.col, wrong.rows.R, wrong.texts = []int64{0, 3}, []int64{1, 1, 1}, []string{"a", ""}
 		wrong.ring.End, wrong.session.At, wrong.dfa.Dist = -1, -1, nil
+		wrong.tree = []impl.Bk{{Word: "a"}, {Word: "b", Dist: 2}}
 		out = append(out, a, wrong)
 	}
 	return out
@@ -58,6 +61,7 @@ func heldArguments(a arguments) arguments {
 	a.col, a.rows.R, a.cut.Col = roomBehind(a.col), roomBehind(a.rows.R), roomBehind(a.cut.Col)
 	a.nodes = heldPlan(impl.Plan{Nodes: a.nodes}).Nodes
 	a.plan, a.session, a.dfa = heldPlan(a.plan), heldSession(a.session), heldDfa(a.dfa)
+	a.tree = withRoom(a.tree, behindTree)
 	return a
 }
 
@@ -74,6 +78,7 @@ func checkArguments(t *testing.T, held arguments, want arguments) {
 	checkHeldPlan(t, held.plan, want.plan)
 	checkHeld(t, held.session, want.session)
 	checkHeldDfa(t, held.dfa, want.dfa)
+	checkRoom(t, held.tree, want.tree, behindTree)
 }
 
 // A call asks one function.
@@ -149,6 +154,16 @@ func allCalls() []call {
 		{"PlanText", func(a arguments) []any { return both(impl.PlanText(a.plan)) }},
 		{"ReadPlan", func(a arguments) []any { return both(impl.ReadPlan(wantPlanText(a.plan))) }},
 		{"ReadPlan of none", func(a arguments) []any { return both(impl.ReadPlan(a.text)) }},
+		{"AlignOf", func(a arguments) []any { return both(impl.AlignOf(a.text, a.pattern.Text, a.pattern.Fold)) }},
+		{"AlignOk", func(a arguments) []any { return both(impl.AlignOk("ab", a.texts[0], false, "==")) }},
+		{"StartOf", func(a arguments) []any { return both(impl.StartOf(a.pattern, a.text, a.at+3)) }},
+		{"BkOf", func(a arguments) []any { return both(impl.BkOf(a.texts)) }},
+		{"BkOk", func(a arguments) []any { return both(impl.BkOk(a.tree)) }},
+		{"Near", func(a arguments) []any { return both(impl.Near(a.tree, a.pattern.Text, a.at+1)) }},
+		{"GramsOf", func(a arguments) []any { return both(impl.GramsOf(a.text, a.at+1)) }},
+		{"Common", func(a arguments) []any { return both(impl.Common(a.text, a.pattern.Text, a.at)) }},
+		{"MayBe", func(a arguments) []any { return both(impl.MayBe(a.text, a.pattern.Text, 5, a.at)) }},
+		{"NearBy", func(a arguments) []any { return both(impl.NearBy(a.texts, a.pattern.Text, 2, a.at)) }},
 	}
 }
 

@@ -28,6 +28,7 @@ type arguments struct {
 	session impl.Session
 	dfa     impl.Dfa
 	tree    []impl.Bk
+	found   []impl.Found
 }
 
 // eachArguments gives right arguments, and others, of which many are not right.
@@ -45,11 +46,13 @@ func eachArguments() []arguments {
 		a.session, _, _ = impl.Feed(a.session, "ab")
 		a.dfa, _ = impl.DfaOf(p)
 		a.tree = wantTree(a.texts)
+		a.found = foundOf([][3]int64{{3, 6, 5}, {1, 4, 4}, {1, 3, 3}, {6, 8, 2}})
 		wrong := a
 		wrong.text, wrong.b, wrong.at = strings.Repeat("ab", 101), 256, -1
 		wrong.col, wrong.rows.R, wrong.texts = []int64{0, 3}, []int64{1, 1, 1}, []string{"a", ""}
 		wrong.ring.End, wrong.session.At, wrong.dfa.Dist = -1, -1, nil
 		wrong.tree = []impl.Bk{{Word: "a"}, {Word: "b", Dist: 2}}
+		wrong.found = foundOf([][3]int64{{1, 3, 3}, {3, 3, 1}})
 		out = append(out, a, wrong)
 	}
 	return out
@@ -61,7 +64,7 @@ func heldArguments(a arguments) arguments {
 	a.col, a.rows.R, a.cut.Col = roomBehind(a.col), roomBehind(a.rows.R), roomBehind(a.cut.Col)
 	a.nodes = heldPlan(impl.Plan{Nodes: a.nodes}).Nodes
 	a.plan, a.session, a.dfa = heldPlan(a.plan), heldSession(a.session), heldDfa(a.dfa)
-	a.tree = withRoom(a.tree, behindTree)
+	a.tree, a.found = withRoom(a.tree, behindTree), withRoom(a.found, behindFound)
 	return a
 }
 
@@ -79,6 +82,7 @@ func checkArguments(t *testing.T, held arguments, want arguments) {
 	checkHeld(t, held.session, want.session)
 	checkHeldDfa(t, held.dfa, want.dfa)
 	checkRoom(t, held.tree, want.tree, behindTree)
+	checkRoom(t, held.found, want.found, behindFound)
 }
 
 // A call asks one function.
@@ -164,6 +168,22 @@ func allCalls() []call {
 		{"Common", func(a arguments) []any { return both(impl.Common(a.text, a.pattern.Text, a.at)) }},
 		{"MayBe", func(a arguments) []any { return both(impl.MayBe(a.text, a.pattern.Text, 5, a.at)) }},
 		{"NearBy", func(a arguments) []any { return both(impl.NearBy(a.texts, a.pattern.Text, 2, a.at)) }},
+		{"FoundOk", func(a arguments) []any { return both(impl.FoundOk(a.found)) }},
+		{"Leftmost", func(a arguments) []any { return both(impl.Leftmost(a.found)) }},
+		{"BestOf", func(a arguments) []any { return both(impl.BestOf(a.found)) }},
+		{"Marked", func(a arguments) []any { return both(impl.Marked(a.text, a.found[:1])) }},
+		{"Marked out of order", func(a arguments) []any { return both(impl.Marked(a.text, a.found)) }},
+		{"Hamming", func(a arguments) []any {
+			return both(impl.Hamming(a.text[:len(a.pattern.Text)], a.pattern.Text, a.pattern.Fold))
+		}},
+		{"SwapDist", func(a arguments) []any { return both(impl.SwapDist(a.text, a.pattern.Text, a.pattern.Fold)) }},
+		{"SwapEnds", func(a arguments) []any { return both(impl.SwapEnds(a.pattern, a.text)) }},
+		{"CostOf", func(a arguments) []any { return both(impl.CostOf(a.text, a.pattern.Text, 3, 2, a.at)) }},
+		{"WordsOf", func(a arguments) []any { return both(impl.WordsOf(a.text)) }},
+		{"WholeEnds", func(a arguments) []any { return both(impl.WholeEnds(a.pattern, a.text)) }},
+		{"StartDist", func(a arguments) []any { return both(impl.StartDist(a.pattern.Text, a.text)) }},
+		{"Suggested", func(a arguments) []any { return both(impl.Suggested(a.texts, a.pattern.Text, 2, a.at+1)) }},
+		{"Completed", func(a arguments) []any { return both(impl.Completed(a.texts, a.pattern.Text, 2, a.at+1)) }},
 	}
 }
 

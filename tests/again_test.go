@@ -85,6 +85,21 @@ func checkArguments(t *testing.T, held arguments, want arguments) {
 	checkRoom(t, held.found, want.found, behindFound)
 }
 
+// scriptOf gives a script with all sorts of lines.
+func scriptOf(a arguments) string {
+	var lines []string
+	for _, p := range a.dict {
+		lines = append(lines, "pat "+wantPatternLine(p))
+	}
+	for _, word := range a.texts {
+		lines = append(lines, "word "+wantEscaped(word))
+	}
+	text := wantEscaped(a.text)
+	lines = append(lines, "scan "+text, "near 2 "+wantEscaped(a.pattern.Text), "align "+text+" ab")
+	lines = append(lines, "open 4", "feed "+text, "drain 2", "feed", "reset 7", "feed ab", "close", "drain 9", "close")
+	return linesOf(lines)
+}
+
 // A call asks one function.
 type call struct {
 	name string
@@ -184,6 +199,8 @@ func allCalls() []call {
 		{"StartDist", func(a arguments) []any { return both(impl.StartDist(a.pattern.Text, a.text)) }},
 		{"Suggested", func(a arguments) []any { return both(impl.Suggested(a.texts, a.pattern.Text, 2, a.at+1)) }},
 		{"Completed", func(a arguments) []any { return both(impl.Completed(a.texts, a.pattern.Text, 2, a.at+1)) }},
+		{"RunScript", func(a arguments) []any { return both(impl.RunScript(scriptOf(a))) }},
+		{"RunScript of none", func(a arguments) []any { return both(impl.RunScript(a.text)) }},
 	}
 }
 

@@ -374,6 +374,15 @@ var (
 	escapes     = regexp.MustCompile(`^(?:[!-\[\]-~]|\\\\|\\n|\\x[0-9a-f]{2})*`)
 )
 
+// wantUnescaped reads what is written as it has to be.
+func wantUnescaped(e string) string {
+	text, err := strconv.Unquote(`"` + strings.ReplaceAll(e, `"`, `\"`) + `"`)
+	if err != nil {
+		panic(err)
+	}
+	return text
+}
+
 // wantRead reads with regular expressions what ReadDict reads byte by byte.
 func wantRead(s string) ([]impl.Pattern, int64, int64) {
 	var d []impl.Pattern
@@ -398,8 +407,8 @@ func wantRead(s string) ([]impl.Pattern, int64, int64) {
 		if e != l[4:] {
 			return nil, n, int64(5 + len(e))
 		}
-		text, err := strconv.Unquote(`"` + strings.ReplaceAll(e, `"`, `\"`) + `"`)
-		if err != nil || text == "" || len(text) > 20 {
+		text := wantUnescaped(e)
+		if text == "" || len(text) > 20 {
 			return nil, n, 5
 		}
 		if len(d) == 8 {

@@ -16,10 +16,15 @@ func wantList(l []int64) string {
 	return strings.ReplaceAll(strings.Trim(fmt.Sprint(l), "[]"), " ", ",")
 }
 
+// wantPatternLine gives a pattern's line without its end.
+func wantPatternLine(p impl.Pattern) string {
+	return fmt.Sprintf("%d %s %s", p.K, map[bool]string{true: "i", false: "-"}[p.Fold], wantEscaped(p.Text))
+}
+
 func wantPlanText(p impl.Plan) string {
 	s := "plan\n"
 	for _, x := range p.Dict {
-		s += fmt.Sprintf("%d %s %s\n", x.K, map[bool]string{true: "i", false: "-"}[x.Fold], wantEscaped(x.Text))
+		s += wantPatternLine(x) + "\n"
 	}
 	s += "parts\n"
 	for _, x := range p.Parts {
